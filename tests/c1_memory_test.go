@@ -9,37 +9,15 @@ import (
 // The functions of this chapter have no lists as arguments, so what is left to
 // test is that an answer is nobody else's, and that rates are as before.
 
-// spoil writes into a list and into the room behind it.
-func spoil(list []int) {
-	for i := range list {
-		list[i] = -7
-	}
-	list = list[:cap(list)]
-	for i := range list {
-		list[i] = -7
-	}
-}
-
 func TestAnswersAreNewMemory(t *testing.T) {
-	answers := func() [][]int {
+	checkNewMemory(t, func() [][]int {
 		return [][]int{
 			impl.OwedAfter(100, rate(10, 100), 60),
 			impl.OwedAfter(100, rate(10, 100), 10),
 			impl.SwappedOf(123450),
 			impl.SplitEven(100, 7),
 		}
-	}
-	first := answers()
-	second := answers()
-	for _, list := range first {
-		spoil(list)
-	}
-	third := answers()
-	for i := range first {
-		if len(second[i]) == 0 || !equal(second[i], third[i]) {
-			t.Errorf("answer %d is %v, and then %v", i, second[i], third[i])
-		}
-	}
+	})
 }
 
 func TestArgumentsAreAsBefore(t *testing.T) {

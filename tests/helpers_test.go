@@ -1,6 +1,10 @@
 package tests
 
-import "loop.example/savingsclub/impl"
+import (
+	"testing"
+
+	"loop.example/savingsclub/impl"
+)
 
 const maxInt = int(^uint(0) >> 1)
 const minInt = -maxInt - 1
@@ -72,5 +76,119 @@ func badRates() []impl.Rate {
 		rate(0, 0), rate(1, 0), rate(0, -1), rate(-1, -1), rate(-1, 2), rate(-1, 1), rate(2, 1), rate(3, 2),
 		rate(0, impl.MaxDen+1), rate(1, impl.MaxDen+1), rate(impl.MaxDen+1, impl.MaxDen),
 		rate(impl.MaxDen+1, impl.MaxDen+1), rate(minInt, 1), rate(maxInt, maxInt), rate(0, minInt),
+	}
+}
+
+// equalLists reports whether two lists of lists have the same numbers.
+func equalLists(a [][]int, b [][]int) bool {
+	if len(a) != len(b) {
+		return false
+	}
+	for i := range a {
+		if !equal(a[i], b[i]) {
+			return false
+		}
+	}
+	return true
+}
+
+// without returns a list without the number at an index, as a new list.
+func without(list []int, index int) []int {
+	var rest []int
+	for i, n := range list {
+		if i != index {
+			rest = append(rest, n)
+		}
+	}
+	return rest
+}
+
+// reversed returns a list in reverse order, as a new list.
+func reversed(list []int) []int {
+	var back []int
+	for i := len(list) - 1; i >= 0; i-- {
+		back = append(back, list[i])
+	}
+	return back
+}
+
+// isAmong reports whether all numbers of a list are in another one.
+func isAmong(numbers []int, list []int) bool {
+	for _, n := range numbers {
+		if !contains(list, n) {
+			return false
+		}
+	}
+	return true
+}
+
+// permutations returns all orders of the numbers from 0 up to count less 1.
+func permutations(count int) [][]int {
+	if count == 0 {
+		return [][]int{nil}
+	}
+	var all [][]int
+	for _, order := range permutations(count - 1) {
+		for place := 0; place < count; place++ {
+			longer := append([]int{}, order[:place]...)
+			longer = append(longer, count-1)
+			all = append(all, append(longer, order[place:]...))
+		}
+	}
+	return all
+}
+
+// subsets returns all lists of some of the numbers from 0 up to count less 1, each
+// ascending, by the sum of 2 to the power of each number.
+func subsets(count int) [][]int {
+	all := [][]int{nil}
+	for n := 0; n < count; n++ {
+		for _, list := range all {
+			all = append(all, append(append([]int{}, list...), n))
+		}
+	}
+	return all
+}
+
+// roomForMore is how many numbers roomy puts behind a list.
+const roomForMore = 3
+
+// roomy returns a list with room behind it, in which there are numbers that nobody may write over.
+func roomy(numbers ...int) []int {
+	list := append([]int{}, numbers...)
+	for i := 0; i < roomForMore; i++ {
+		list = append(list, -99)
+	}
+	return list[:len(numbers)]
+}
+
+// isAsBefore reports whether a list made by roomy has the numbers still, and the room behind it, too.
+func isAsBefore(list []int, numbers ...int) bool {
+	all := roomy(numbers...)
+	return equal(list[:len(numbers)+roomForMore], all[:len(numbers)+roomForMore])
+}
+
+// spoil writes into a list and into the room behind it.
+func spoil(list []int) {
+	for i := range list {
+		list[i] = -7
+	}
+	list = list[:cap(list)]
+	for i := range list {
+		list[i] = -7
+	}
+}
+
+// checkNewMemory fails if answers, none of which is empty, are others when those that were told before are written into.
+func checkNewMemory(t *testing.T, answers func() [][]int) {
+	t.Helper()
+	first := answers()
+	second := answers()
+	for i, list := range first {
+		want := append([]int{}, list...)
+		spoil(list)
+		if third := answers()[i]; len(want) == 0 || !equal(second[i], want) || !equal(third, want) {
+			t.Errorf("answer %d is %v, and then %v and %v", i, want, second[i], third)
+		}
 	}
 }
