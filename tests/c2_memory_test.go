@@ -88,27 +88,12 @@ func TestRanksAreAsBefore(t *testing.T) {
 		{{0, 0}, {1, 2}},
 		{{0, 1}, {0}},
 	} {
-		var ranks [][]int
-		for _, list := range before {
-			ranks = append(ranks, roomy(list...))
-		}
-		behind := roomy(7, 8)
-		ranks = append(ranks, behind)[:len(before)]
-		lists := append([][]int{}, ranks[:len(before)+1]...)
-
-		impl.ValidRanks(ranks)
-		impl.Prefer(ranks, 0, 1)
-		impl.BeatsAll(ranks)
-		spoil(impl.PointsOf(ranks))
-		impl.Runoff(ranks)
-
-		for i, list := range before {
-			if &ranks[i][0] != &lists[i][0] || !isAsBefore(ranks[i], list...) {
-				t.Errorf("%v became %v", before, ranks)
-			}
-		}
-		if after := ranks[:len(before)+1][len(before)]; len(after) != 2 || &after[0] != &behind[0] || !isAsBefore(after, 7, 8) {
-			t.Errorf("behind %v was written", before)
-		}
+		checkListsAreAsBefore(t, before, func(ranks [][]int) {
+			impl.ValidRanks(ranks)
+			impl.Prefer(ranks, 0, 1)
+			impl.BeatsAll(ranks)
+			spoil(impl.PointsOf(ranks))
+			impl.Runoff(ranks)
+		})
 	}
 }

@@ -168,6 +168,23 @@ func isAsBefore(list []int, numbers ...int) bool {
 	return equal(list[:len(numbers)+roomForMore], all[:len(numbers)+roomForMore])
 }
 
+// checkListsAreAsBefore fails if a call writes into lists, or into the room behind each of them or behind all.
+func checkListsAreAsBefore(t *testing.T, before [][]int, call func(lists [][]int)) {
+	t.Helper()
+	lists := append(append([][]int{}, before...), []int{7, 8})
+	var given [][]int
+	for _, list := range lists {
+		given = append(given, roomy(list...))
+	}
+	same := append([][]int{}, given...)
+	call(given[:len(before)])
+	for i, list := range lists {
+		if len(given[i]) != len(list) || &given[i][:1][0] != &same[i][:1][0] || !isAsBefore(same[i], list...) {
+			t.Errorf("list %d of %v, or behind it, became %v", i, before, given[i])
+		}
+	}
+}
+
 // spoil writes into a list and into the room behind it.
 func spoil(list []int) {
 	for i := range list {
