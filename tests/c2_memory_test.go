@@ -65,17 +65,7 @@ func TestVotesAreNewMemory(t *testing.T) {
 
 func TestCoalitionsShareNoMemory(t *testing.T) {
 	for _, b := range []impl.Body{body(8, 5, 4, 3, 2, 1, 1), body(4, 3, 2, 1), body(1, times(8, 1)...), body(4, times(8, 1)...)} {
-		want := impl.LeastCoalitions(b)
-		got := impl.LeastCoalitions(b)
-		for i := range got {
-			spoil(got[i])
-			if !equalLists(got[i+1:], want[i+1:]) {
-				t.Fatalf("coalition %d of %v is in others, too", i, b)
-			}
-		}
-		if again := impl.LeastCoalitions(b); !equalLists(again, want) {
-			t.Errorf("LeastCoalitions(%v) is %v, and then %v", b, want, again)
-		}
+		checkListsShareNoMemory(t, func() [][]int { return impl.LeastCoalitions(b) })
 	}
 }
 

@@ -88,15 +88,6 @@ func honestOnes(list []impl.Reveal) []impl.Reveal {
 	return rest
 }
 
-// backwards returns reveals in reverse order, as a new list.
-func backwards(list []impl.Reveal) []impl.Reveal {
-	var back []impl.Reveal
-	for i := len(list) - 1; i >= 0; i-- {
-		back = append(back, list[i])
-	}
-	return back
-}
-
 // withOneMore returns reveals with one more at an index, as a new list.
 func withOneMore(list []impl.Reveal, index int, one impl.Reveal) []impl.Reveal {
 	longer := append([]impl.Reveal{}, list[:index]...)
@@ -308,7 +299,7 @@ func TestP53OnlyHonestValuesCount(t *testing.T) {
 	eachReveals(func(list []impl.Reveal) {
 		for _, choices := range someChoices() {
 			sum, choice := impl.DrawOf(list, choices)
-			for _, other := range [][]impl.Reveal{honestOnes(list), backwards(list)} {
+			for _, other := range [][]impl.Reveal{honestOnes(list), reversed(list)} {
 				if again, drawn := impl.DrawOf(other, choices); sum < 0 || again != sum || drawn != choice {
 					t.Errorf("DrawOf(%v, %d) = %d, %d, but of %v it is %d, %d", list, choices, sum, choice, other, again, drawn)
 				}

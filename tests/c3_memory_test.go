@@ -80,7 +80,7 @@ func TestRevealsAreAsBefore(t *testing.T) {
 	}
 	check(nil)
 	check(someReveals()[:impl.MaxMembers])
-	check(backwards(someReveals())[:5])
+	check(reversed(someReveals())[:5])
 	for _, list := range badReveals() {
 		check(list)
 	}

@@ -14,8 +14,8 @@ func rate(num int, den int) impl.Rate {
 	return impl.Rate{Num: num, Den: den}
 }
 
-// equal reports whether two lists have the same numbers.
-func equal(a []int, b []int) bool {
+// equal reports whether two lists have the same numbers, or whatever they are lists of.
+func equal[T comparable](a []T, b []T) bool {
 	if len(a) != len(b) {
 		return false
 	}
@@ -92,9 +92,9 @@ func equalLists(a [][]int, b [][]int) bool {
 	return true
 }
 
-// without returns a list without the number at an index, as a new list.
-func without(list []int, index int) []int {
-	var rest []int
+// without returns a list without what is at an index, as a new list.
+func without[T any](list []T, index int) []T {
+	var rest []T
 	for i, n := range list {
 		if i != index {
 			rest = append(rest, n)
@@ -104,8 +104,8 @@ func without(list []int, index int) []int {
 }
 
 // reversed returns a list in reverse order, as a new list.
-func reversed(list []int) []int {
-	var back []int
+func reversed[T any](list []T) []T {
+	var back []T
 	for i := len(list) - 1; i >= 0; i-- {
 		back = append(back, list[i])
 	}
@@ -193,6 +193,22 @@ func spoil(list []int) {
 	list = list[:cap(list)]
 	for i := range list {
 		list[i] = -7
+	}
+}
+
+// checkListsShareNoMemory fails if lists of an answer, or of one that is told later, are others when a list of it is written into.
+func checkListsShareNoMemory(t *testing.T, answer func() [][]int) {
+	t.Helper()
+	want := answer()
+	got := answer()
+	for i := range got {
+		spoil(got[i])
+		if !equalLists(got[i+1:], want[i+1:]) {
+			t.Errorf("list %d of %v is in others, too", i, want)
+		}
+	}
+	if again := answer(); !equalLists(again, want) {
+		t.Errorf("the answer is %v, and then %v", want, again)
 	}
 }
 
