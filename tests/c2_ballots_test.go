@@ -26,7 +26,7 @@ func badKinds() []int {
 // ballotsFor returns ballots of count members: all if they are few, otherwise some.
 func ballotsFor(count int) [][]int {
 	if count <= 4 {
-		return shortWeights(count, no)
+		return allLists(count, kinds())
 	}
 	var lists [][]int
 	for step := 0; step < 16; step++ {

@@ -21,30 +21,6 @@ func isNoBody(b impl.Body) bool {
 	return b.Need == 0 && len(b.Weights) == 0
 }
 
-// times returns a list with a number as often as told.
-func times(count int, n int) []int {
-	var list []int
-	for i := 0; i < count; i++ {
-		list = append(list, n)
-	}
-	return list
-}
-
-// shortWeights returns all lists of count Weights of at most greatest.
-func shortWeights(count int, greatest int) [][]int {
-	lists := [][]int{nil}
-	for i := 0; i < count; i++ {
-		var longer [][]int
-		for _, list := range lists {
-			for weight := 0; weight <= greatest; weight++ {
-				longer = append(longer, append(append([]int{}, list...), weight))
-			}
-		}
-		lists = longer
-	}
-	return lists
-}
-
 // smallWeights returns Weights of at most MaxFew members.
 func smallWeights() [][]int {
 	lists := [][]int{
@@ -56,9 +32,9 @@ func smallWeights() [][]int {
 		times(impl.MaxFew, 1), times(impl.MaxFew, impl.MaxWeight),
 	}
 	for count := 1; count <= 3; count++ {
-		lists = append(lists, shortWeights(count, 3)...)
+		lists = append(lists, allLists(count, upTo(4))...)
 	}
-	return append(lists, shortWeights(4, 2)...)
+	return append(lists, allLists(4, upTo(3))...)
 }
 
 // largeWeights returns Weights of more than MaxFew members.

@@ -15,33 +15,18 @@ func manyTimes(count int, list ...int) [][]int {
 	return lists
 }
 
-// ranksOf returns all ways to have count lists of the orders.
-func ranksOf(count int, orders [][]int) [][][]int {
-	ways := [][][]int{nil}
-	for i := 0; i < count; i++ {
-		var longer [][][]int
-		for _, way := range ways {
-			for _, order := range orders {
-				longer = append(longer, append(append([][]int{}, way...), order))
-			}
-		}
-		ways = longer
-	}
-	return ways
-}
-
 // eachRanks calls check for valid lists: all if they are few and short, otherwise some.
 func eachRanks(check func(ranks [][]int)) {
 	for count := 1; count <= impl.MaxMembers; count++ {
 		check(manyTimes(count, 0))
 	}
 	for count := 1; count <= 5; count++ {
-		for _, ranks := range ranksOf(count, permutations(2)) {
+		for _, ranks := range allLists(count, permutations(2)) {
 			check(ranks)
 		}
 	}
 	for count := 1; count <= 4; count++ {
-		for _, ranks := range ranksOf(count, permutations(3)) {
+		for _, ranks := range allLists(count, permutations(3)) {
 			check(ranks)
 		}
 	}

@@ -6,21 +6,6 @@ import (
 	"loop.example/savingsclub/impl"
 )
 
-// bidLists returns all lists of count bids with these values.
-func bidLists(count int, values []int) [][]int {
-	lists := [][]int{nil}
-	for i := 0; i < count; i++ {
-		var longer [][]int
-		for _, list := range lists {
-			for _, value := range values {
-				longer = append(longer, append(append([]int{}, list...), value))
-			}
-		}
-		lists = longer
-	}
-	return lists
-}
-
 // somePots returns bids of each kind: none, the least ones, one in between, and the whole pot.
 func somePots(members int, pay int) []int {
 	pot := members * pay
@@ -46,7 +31,7 @@ func manyBids(count int, pay int, by int) []int {
 func eachAuction(check func(bids []int, pay int, done []int)) {
 	for members := 1; members <= 4; members++ {
 		for _, pay := range []int{0, 1, 10, impl.MaxPay} {
-			for _, bids := range bidLists(members, somePots(members, pay)) {
+			for _, bids := range allLists(members, somePots(members, pay)) {
 				for _, done := range subsets(members) {
 					check(bids, pay, done)
 				}
@@ -279,12 +264,12 @@ func tableOf(count int, square []int) [][]int {
 func eachTable(check func(table [][]int, pay int)) {
 	for _, pay := range []int{0, 1, 7, impl.MaxPay} {
 		for count := 1; count <= 2; count++ {
-			for _, square := range bidLists(count*count, somePots(count, pay)) {
+			for _, square := range allLists(count*count, somePots(count, pay)) {
 				check(tableOf(count, square), pay)
 			}
 		}
 	}
-	for _, square := range bidLists(9, []int{-1, 0, 5}) {
+	for _, square := range allLists(9, []int{-1, 0, 5}) {
 		check(tableOf(3, square), 7)
 	}
 	for count := 3; count <= impl.MaxMembers; count++ {

@@ -21,19 +21,10 @@ func chain(count int, member int) impl.Lock {
 	return l
 }
 
-// copies returns a lock as often as told.
-func copies(count int, l impl.Lock) []impl.Lock {
-	var list []impl.Lock
-	for i := 0; i < count; i++ {
-		list = append(list, l)
-	}
-	return list
-}
-
 // fullLock returns a lock with MaxLocks locks in all, whose last kid is told.
 func fullLock(need int, last impl.Lock) impl.Lock {
 	two := lock(2, []int{1}, lock(1, []int{6, 2}))
-	kids := append(copies(3, two), copies(4, lock(1, []int{3}))...)
+	kids := append(times(3, two), times(4, lock(1, []int{3}))...)
 	return lock(need, nil, append(kids, last)...)
 }
 
@@ -55,12 +46,8 @@ func grow(roll func(count int) int, room *int) impl.Lock {
 
 // grownLock returns the valid lock that grows from a number.
 func grownLock(by int) impl.Lock {
-	state := by
 	room := 1 + by%impl.MaxLocks
-	return grow(func(count int) int {
-		state = (state*1103515245 + 12345) % (1 << 31)
-		return state / 65536 % count
-	}, &room)
+	return grow(dice(by), &room)
 }
 
 // someLocks returns valid locks: without Kids, without Members, locks in locks, as many as can be, and members in several of them.
@@ -72,11 +59,11 @@ func someLocks() []impl.Lock {
 		lock(1, nil, some), lock(2, nil, some, some), lock(2, nil, some, lock(2, []int{3, 4})), lock(1, nil, some, lock(1, []int{0})),
 		lock(2, []int{0}, lock(1, []int{0})), lock(3, []int{0, 1}, lock(2, []int{0, 1}), lock(1, []int{0})),
 		lock(2, []int{0}, lock(2, []int{1}, lock(2, []int{2, 3}), lock(1, []int{4}))), lock(1, nil, lock(1, nil, lock(1, nil, some))),
-		lock(impl.MaxFew, upTo(7), some), lock(1, upTo(7), some), lock(5, []int{6}, copies(7, some)...),
+		lock(impl.MaxFew, upTo(7), some), lock(1, upTo(7), some), lock(5, []int{6}, times(7, some)...),
 		chain(2, 5), chain(impl.MaxLocks, 7), lock(2, []int{1}, chain(impl.MaxLocks-1, 0)),
 	}
 	for need := 1; need <= impl.MaxFew; need++ {
-		locks = append(locks, lock(need, upTo(impl.MaxFew)), lock(need, nil, copies(impl.MaxFew, some)...), fullLock(need, lock(1, []int{0})))
+		locks = append(locks, lock(need, upTo(impl.MaxFew)), lock(need, nil, times(impl.MaxFew, some)...), fullLock(need, lock(1, []int{0})))
 	}
 	return locks
 }
@@ -98,7 +85,7 @@ func badAlone() []impl.Lock {
 		{}, lock(1, nil), lock(-1, nil), lock(0, []int{0}), lock(2, []int{0}), lock(-1, []int{0}), lock(minInt, []int{0}), lock(maxInt, []int{0}),
 		lock(0, []int{0, 1}, some), lock(4, []int{0, 1}, some), lock(2, nil, some), lock(0, nil, some), lock(impl.MaxFew+1, upTo(impl.MaxFew)),
 		lock(1, []int{0, 0}), lock(2, []int{0, 0}), lock(1, []int{0, 1, 0}), lock(1, []int{7, 7}, some), lock(1, append(upTo(7), 6)), lock(1, upTo(impl.MaxFew+1)),
-		lock(1, append(upTo(impl.MaxFew), 0)), lock(1, upTo(100)), lock(1, upTo(impl.MaxFew), some), lock(1, upTo(7), some, some), lock(1, nil, copies(impl.MaxFew+1, some)...),
+		lock(1, append(upTo(impl.MaxFew), 0)), lock(1, upTo(100)), lock(1, upTo(impl.MaxFew), some), lock(1, upTo(7), some, some), lock(1, nil, times(impl.MaxFew+1, some)...),
 	}
 	for _, bad := range []int{-1, minInt, impl.MaxFew, 63, 64, 65, maxInt} {
 		locks = append(locks, lock(1, []int{bad}), lock(1, []int{0, bad}), lock(1, []int{bad, 0}), lock(1, []int{bad}, some), lock(1, append(upTo(7), bad)))
@@ -111,7 +98,7 @@ func badLocks() []impl.Lock {
 	some := lock(1, []int{2, 3})
 	locks := []impl.Lock{
 		chain(impl.MaxLocks+1, 0), chain(100, 0), fullLock(1, chain(2, 0)), lock(1, []int{0}, fullLock(1, some)), lock(1, nil, some, chain(impl.MaxLocks-1, 0)),
-		lock(1, nil, chain(impl.MaxLocks-1, 0), some), lock(1, nil, copies(3, lock(1, nil, copies(3, some)...))...), lock(1, nil, copies(1000, some)...),
+		lock(1, nil, chain(impl.MaxLocks-1, 0), some), lock(1, nil, times(3, lock(1, nil, times(3, some)...))...), lock(1, nil, times(1000, some)...),
 	}
 	for _, bad := range badAlone() {
 		locks = append(locks, bad, lock(1, []int{0}, bad), lock(1, nil, bad, some), lock(1, nil, some, bad), lock(1, []int{0}, lock(1, []int{1}, some, bad)), fullLock(1, bad))

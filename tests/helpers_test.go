@@ -122,6 +122,39 @@ func isAmong(numbers []int, list []int) bool {
 	return true
 }
 
+// times returns a list with a number, or whatever it is, as often as told.
+func times[T any](count int, n T) []T {
+	var list []T
+	for i := 0; i < count; i++ {
+		list = append(list, n)
+	}
+	return list
+}
+
+// allLists returns all lists of count values, each of which may be there several times.
+func allLists[T any](count int, values []T) [][]T {
+	lists := [][]T{nil}
+	for i := 0; i < count; i++ {
+		var longer [][]T
+		for _, list := range lists {
+			for _, value := range values {
+				longer = append(longer, append(append([]T{}, list...), value))
+			}
+		}
+		lists = longer
+	}
+	return lists
+}
+
+// dice returns a function whose numbers, each less than count, look like those of dice, but are always the same ones for a number.
+func dice(by int) func(count int) int {
+	state := by
+	return func(count int) int {
+		state = (state*1103515245 + 12345) % (1 << 31)
+		return state / 65536 % count
+	}
+}
+
 // permutations returns all orders of the numbers from 0 up to count less 1.
 func permutations(count int) [][]int {
 	if count == 0 {
